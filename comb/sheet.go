@@ -5,6 +5,7 @@ import (
 	"slices"
 
 	"oxgall/api"
+	"oxgall/lists"
 )
 
 // marks tells of each mark whether a row has it, by 1 or 0. A row that does not
@@ -58,7 +59,7 @@ func openedWhole(s api.CombSheet) (*sheet, api.Errno) {
 func areMarks(ranges []api.Range) bool {
 	from := int64(0)
 	for _, r := range ranges {
-		if !within(from, api.MaxCombWide, r.Lo, r.Hi) || !within(0, api.MaxCombOff, r.Hi-r.Lo) {
+		if !lists.Within(from, api.MaxCombWide, r.Lo, r.Hi) || !lists.Within(0, api.MaxCombOff, r.Hi-r.Lo) {
 			return false
 		}
 		from = r.Hi + 1
@@ -90,7 +91,7 @@ func had(s api.CombSheet, row api.CombRow) marks {
 	comb := s.Combs[row.Comb]
 	for tooth := range comb.Teeth {
 		at := row.At + int64(tooth)*comb.Space
-		mark := first(s.Marks, func(r api.Range) bool { return within(r.Lo, r.Hi, at) })
+		mark := lists.First(s.Marks, func(r api.Range) bool { return lists.Within(r.Lo, r.Hi, at) })
 		if mark == len(s.Marks) {
 			clear(m[:])
 			break
@@ -103,14 +104,14 @@ func had(s api.CombSheet, row api.CombRow) marks {
 // areCombs tells whether all rows are rows of combs of a sheet.
 func (s *sheet) areCombs(rows ...api.CombRow) bool {
 	strange := func(r api.CombRow) bool { return r.Comb < 0 || r.Comb >= len(s.Combs) }
-	return first(rows, strange) == len(rows)
+	return lists.First(rows, strange) == len(rows)
 }
 
 // fitting returns those of some rows that fit.
 func (s *sheet) fitting(rows ...api.CombRow) []fit {
 	var out []fit
 	for _, row := range rows {
-		i := first(s.fits, func(f fit) bool { return f.CombRow == row })
+		i := lists.First(s.fits, func(f fit) bool { return f.CombRow == row })
 		if i < len(s.fits) {
 			out = append(out, s.fits[i])
 		}
@@ -132,7 +133,7 @@ func (s *sheet) those(good func(mark int) bool) []int {
 // missed returns the marks that none of some rows has.
 func (s *sheet) missed(fits []fit) []int {
 	return s.those(func(mark int) bool {
-		return first(fits, func(f fit) bool { return f.has(mark) }) == len(fits)
+		return lists.First(fits, func(f fit) bool { return f.has(mark) }) == len(fits)
 	})
 }
 
@@ -145,7 +146,7 @@ func (s *sheet) areApart(list []int) bool {
 		}
 		return n > 1
 	}
-	return first(s.fits, crowded) == len(s.fits)
+	return lists.First(s.fits, crowded) == len(s.fits)
 }
 
 // lists yields all strictly increasing lists of so many marks, in lexicographic order.

@@ -6,27 +6,28 @@ import (
 	"sort"
 
 	"oxgall/api"
+	"oxgall/lists"
 )
 
 // CheckBath reports whether a bath is valid. (P1.1)
 func CheckBath(b api.DropBath) api.Errno {
 	inside := func(s api.DropSpot) bool {
-		return within(1, b.Width-1, s.X) && within(0, api.MaxDropFar, s.Y)
+		return lists.Within(1, b.Width-1, s.X) && lists.Within(0, api.MaxDropFar, s.Y)
 	}
 	right := func(d api.DropDrop) bool {
 		return 0 <= d.Spot && d.Spot < len(b.Spots) &&
-			within(1, api.MaxDropSpread, d.Spread.Lo, d.Spread.Hi) && d.Spread.Lo <= d.Spread.Hi
+			lists.Within(1, api.MaxDropSpread, d.Spread.Lo, d.Spread.Hi) && d.Spread.Lo <= d.Spread.Hi
 	}
 	switch {
-	case !within(2, api.MaxDropFar, b.Width):
+	case !lists.Within(2, api.MaxDropFar, b.Width):
 		return api.ErrArg
 	case len(b.Spots) > api.MaxDropSpots || len(b.Drops) > api.MaxDropDrops:
 		return api.ErrMany
-	case !every(b.Spots, inside):
+	case !lists.Every(b.Spots, inside):
 		return api.ErrRange
-	case twice(b.Spots):
+	case lists.Twice(b.Spots):
 		return api.ErrEqual
-	case !every(b.Drops, right):
+	case !lists.Every(b.Drops, right):
 		return api.ErrRule
 	}
 	return api.OK
@@ -106,8 +107,8 @@ func First(b api.DropBath, one, two int) (api.Range, api.Errno) {
 	for i := range b.Drops {
 		steps = append(steps, measured(b, i+1))
 	}
-	soonest := first(steps, func(t sized) bool { return t.meet(one, two, t.most) })
-	latest := first(steps, func(t sized) bool { return t.meet(one, two, t.least) })
+	soonest := lists.First(steps, func(t sized) bool { return t.meet(one, two, t.most) })
+	latest := lists.First(steps, func(t sized) bool { return t.meet(one, two, t.least) })
 	return api.Range{Lo: int64(soonest) + 1, Hi: int64(latest) + 1}, api.OK
 }
 
@@ -138,11 +139,11 @@ func CheckWay(b api.DropBath, way []int, sure bool) api.Errno {
 		return e
 	}
 	switch {
-	case !within(2, api.MaxDropPlaces, int64(len(way))):
+	case !lists.Within(2, api.MaxDropPlaces, int64(len(way))):
 		return api.ErrMany
-	case !every(way, s.isPlace):
+	case !lists.Every(way, s.isPlace):
 		return api.ErrArg
-	case twice(way):
+	case lists.Twice(way):
 		return api.ErrEqual
 	}
 	h := s.holding(sure)
@@ -173,7 +174,7 @@ func CheckSide(b api.DropBath, one, two int, side []int, sure bool) api.Errno {
 	if e != api.OK {
 		return e
 	}
-	if !rising(side) || !every(side, s.isPlace) {
+	if !lists.Rising(side) || !lists.Every(side, s.isPlace) {
 		return api.ErrRange
 	}
 	marks := make([]bool, api.MaxDropPlaces)

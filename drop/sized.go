@@ -4,6 +4,7 @@ import (
 	"iter"
 
 	"oxgall/api"
+	"oxgall/lists"
 )
 
 // sized is a valid bath with the size of each of its spots.
@@ -106,12 +107,12 @@ func (s *sized) isFree(spot int) bool {
 
 // firstOn returns the index of the first drop on a spot.
 func (s *sized) firstOn(spot int) int {
-	return first(s.Drops, func(d api.DropDrop) bool { return d.Spot == spot })
+	return lists.First(s.Drops, func(d api.DropDrop) bool { return d.Spot == spot })
 }
 
 // nextOn returns the index of the first drop behind one that is on the same spot.
 func (s *sized) nextOn(drop int) int {
 	behind := s.Drops[drop+1:]
 	same := func(d api.DropDrop) bool { return d.Spot == s.Drops[drop].Spot }
-	return drop + 1 + first(behind, same)
+	return drop + 1 + lists.First(behind, same)
 }

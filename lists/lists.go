@@ -1,0 +1,43 @@
+// Package lists tells what all layers ask of lists and numbers.
+package lists
+
+// First returns the index of the first element that is good, or the length of the list if none is.
+func First[T any](list []T, good func(T) bool) int {
+	for i, x := range list {
+		if good(x) {
+			return i
+		}
+	}
+	return len(list)
+}
+
+// Every tells whether all elements are good.
+func Every[T any](list []T, good func(T) bool) bool {
+	bad := func(x T) bool { return !good(x) }
+	return First(list, bad) == len(list)
+}
+
+// Twice tells whether two elements are equal.
+func Twice[T comparable](list []T) bool {
+	for i, x := range list {
+		if First(list, func(y T) bool { return x == y }) < i {
+			return true
+		}
+	}
+	return false
+}
+
+// Within tells whether all numbers are from low to high.
+func Within(low, high int64, numbers ...int64) bool {
+	return Every(numbers, func(n int64) bool { return low <= n && n <= high })
+}
+
+// Rising tells whether each number is greater than the one before it.
+func Rising(list []int) bool {
+	for i := 1; i < len(list); i++ {
+		if list[i] <= list[i-1] {
+			return false
+		}
+	}
+	return true
+}

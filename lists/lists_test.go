@@ -1,0 +1,74 @@
+package lists_test
+
+import (
+	"math"
+	"testing"
+
+	"oxgall/lists"
+)
+
+func TestFirstAndEvery(t *testing.T) {
+	even := func(n int) bool { return n%2 == 0 }
+	for i, x := range []struct {
+		list  []int
+		first int
+		every bool
+	}{
+		{nil, 0, true},
+		{[]int{1}, 1, false},
+		{[]int{2}, 0, true},
+		{[]int{1, 2, 4}, 1, false},
+		{[]int{2, 4, 3}, 0, false},
+		{[]int{3, 5, 8}, 2, false},
+		{[]int{8, 6, 6}, 0, true},
+	} {
+		if n := lists.First(x.list, even); n != x.first {
+			t.Error(i, n)
+		}
+		if every := lists.Every(x.list, even); every != x.every {
+			t.Error(i, every)
+		}
+	}
+}
+
+func TestTwiceAndRising(t *testing.T) {
+	for i, x := range []struct {
+		list          []int
+		twice, rising bool
+	}{
+		{nil, false, true},
+		{[]int{7}, false, true},
+		{[]int{7, 7}, true, false},
+		{[]int{3, 5, 3}, true, false},
+		{[]int{5, 3}, false, false},
+		{[]int{math.MinInt, 0, math.MaxInt}, false, true},
+		{[]int{1, 2, 2}, true, false},
+		{[]int{1, 4, 3}, false, false},
+	} {
+		if twice := lists.Twice(x.list); twice != x.twice {
+			t.Error(i, twice)
+		}
+		if rising := lists.Rising(x.list); rising != x.rising {
+			t.Error(i, rising)
+		}
+	}
+}
+
+func TestWithin(t *testing.T) {
+	for i, x := range []struct {
+		low, high int64
+		numbers   []int64
+		within    bool
+	}{
+		{1, 3, nil, true},
+		{1, 3, []int64{1, 2, 3}, true},
+		{1, 3, []int64{0}, false},
+		{1, 3, []int64{2, 4}, false},
+		{3, 1, []int64{2}, false},
+		{math.MinInt64, math.MaxInt64, []int64{math.MinInt64, math.MaxInt64}, true},
+	} {
+		if within := lists.Within(x.low, x.high, x.numbers...); within != x.within {
+			t.Error(i, within)
+		}
+	}
+}
