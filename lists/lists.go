@@ -41,3 +41,20 @@ func Rising(list []int) bool {
 	}
 	return true
 }
+
+// IsOrder tells whether a list is all indexes below a length, each once.
+func IsOrder(list []int, length int) bool {
+	isIndex := func(n int) bool { return 0 <= n && n < length }
+	return len(list) == length && Every(list, isIndex) && !Twice(list)
+}
+
+// Marked returns the indexes that are marked, increasing.
+func Marked(marks []bool) []int {
+	var out []int
+	for i, is := range marks {
+		if is {
+			out = append(out, i)
+		}
+	}
+	return out
+}

@@ -2,6 +2,7 @@ package lists_test
 
 import (
 	"math"
+	"slices"
 	"testing"
 
 	"oxgall/lists"
@@ -69,6 +70,46 @@ func TestWithin(t *testing.T) {
 	} {
 		if within := lists.Within(x.low, x.high, x.numbers...); within != x.within {
 			t.Error(i, within)
+		}
+	}
+}
+
+func TestIsOrder(t *testing.T) {
+	for i, x := range []struct {
+		list   []int
+		length int
+		order  bool
+	}{
+		{nil, 0, true},
+		{nil, 1, false},
+		{[]int{0}, 1, true},
+		{[]int{1}, 1, false},
+		{[]int{2, 0, 1}, 3, true},
+		{[]int{0, 1}, 3, false},
+		{[]int{0, 1, 2, 0}, 3, false},
+		{[]int{0, 1, 1}, 3, false},
+		{[]int{0, 1, 3}, 3, false},
+		{[]int{0, -1, 1}, 3, false},
+		{[]int{math.MinInt, math.MaxInt}, 2, false},
+		{make([]int, 70000), 3, false},
+	} {
+		if order := lists.IsOrder(x.list, x.length); order != x.order {
+			t.Error(i, order)
+		}
+	}
+}
+
+func TestMarked(t *testing.T) {
+	for i, x := range []struct {
+		marks []bool
+		out   []int
+	}{
+		{nil, nil},
+		{[]bool{false, false}, nil},
+		{[]bool{true, false, false, true, true}, []int{0, 3, 4}},
+	} {
+		if out := lists.Marked(x.marks); !slices.Equal(out, x.out) {
+			t.Error(i, out)
 		}
 	}
 }

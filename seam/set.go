@@ -121,21 +121,10 @@ func (s *set) groups() [][]int {
 		s.mark(part, marks)
 		// A group is listed once, when its least part comes.
 		if slices.Index(marks, true) == part {
-			groups = append(groups, marked(marks))
+			groups = append(groups, lists.Marked(marks))
 		}
 	}
 	return groups
-}
-
-// marked returns the parts that are marked, increasing.
-func marked(marks []bool) []int {
-	var parts []int
-	for part, is := range marks {
-		if is {
-			parts = append(parts, part)
-		}
-	}
-	return parts
 }
 
 // fewest returns the rounds of a best order. With no more rounds than the peak
@@ -146,11 +135,6 @@ func (s *set) fewest() int64 {
 		return s.peak + 1
 	}
 	return s.peak
-}
-
-// isOrder tells whether a list is an order.
-func (s *set) isOrder(list []int) bool {
-	return len(list) == len(s.Parts) && lists.Every(list, s.isPart) && !lists.Twice(list)
 }
 
 // wastes returns the waste behind each part of an order.
