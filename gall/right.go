@@ -1,0 +1,54 @@
+package gall
+
+import (
+	"maps"
+	"slices"
+)
+
+// with returns a list in which a colour suits one place at most.
+func (l *list) with(colour, place int) *list {
+	other := *l
+	other.windows[colour] = common(l.windows[colour], only(place))
+	return &other
+}
+
+// canBegin tells whether some right order begins with some colours.
+func (l *list) canBegin(order []int) bool {
+	for place, colour := range order {
+		l = l.with(colour, place)
+	}
+	return l.isPossible()
+}
+
+// first returns the first right order of a list that has one.
+func (l *list) first() []int {
+	var order []int
+	for place := range l.Colours {
+		for colour := range l.Colours {
+			// All that are tried at a place begin with the same colours, so their capacity is cut.
+			tried := append(order[:place:place], colour)
+			if l.canBegin(tried) {
+				order = tried
+				break
+			}
+		}
+	}
+	return order
+}
+
+// count returns how many right orders there are. How many orders the colours have
+// that are dropped first is told by those of the sets with one colour less.
+func (l *list) count() int64 {
+	orders := map[set]int64{0: 1}
+	for place := range l.Colours {
+		for _, dropped := range slices.Sorted(maps.Keys(orders)) {
+			for next := range l.Colours {
+				if !dropped.has(next) && dropped.contains(l.before[next]) && l.suits(next, place) {
+					orders[dropped.with(next)] += orders[dropped]
+				}
+			}
+			delete(orders, dropped)
+		}
+	}
+	return orders[1<<len(l.Colours)-1]
+}
