@@ -125,12 +125,12 @@ func (l *list) check(order []int) api.Errno {
 			return api.ErrPush
 		}
 	}
-	dropped := set(0)
+	var dropped lists.Set
 	for _, colour := range order {
-		if !dropped.contains(l.before[colour]) {
+		if !dropped.Contains(l.before[colour]) {
 			return api.ErrRule
 		}
-		dropped = dropped.with(colour)
+		dropped = dropped.With(colour)
 	}
 	return api.OK
 }

@@ -3,6 +3,8 @@ package gall
 import (
 	"maps"
 	"slices"
+
+	"oxgall/lists"
 )
 
 // with returns a list in which a colour suits one place at most.
@@ -39,16 +41,16 @@ func (l *list) first() []int {
 // count returns how many right orders there are. How many orders the colours have
 // that are dropped first is told by those of the sets with one colour less.
 func (l *list) count() int64 {
-	orders := map[set]int64{0: 1}
+	orders := map[lists.Set]int64{0: 1}
 	for place := range l.Colours {
 		for _, dropped := range slices.Sorted(maps.Keys(orders)) {
 			for next := range l.Colours {
-				if !dropped.has(next) && dropped.contains(l.before[next]) && l.suits(next, place) {
-					orders[dropped.with(next)] += orders[dropped]
+				if !dropped.Has(next) && dropped.Contains(l.before[next]) && l.suits(next, place) {
+					orders[dropped.With(next)] += orders[dropped]
 				}
 			}
 			delete(orders, dropped)
 		}
 	}
-	return orders[1<<len(l.Colours)-1]
+	return orders[lists.All(len(l.Colours))]
 }

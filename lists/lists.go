@@ -1,4 +1,4 @@
-// Package lists tells what all layers ask of lists and numbers.
+// Package lists tells what all layers ask of lists, sets and numbers.
 package lists
 
 // First returns the index of the first element that is good, or the length of the list if none is.

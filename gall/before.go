@@ -1,39 +1,20 @@
 package gall
 
 import (
-	"iter"
 	"slices"
 
 	"oxgall/api"
+	"oxgall/lists"
 )
 
-// set is some colours, as bits.
-type set uint16
-
-func (s set) with(colour int) set     { return s | 1<<colour }
-func (s set) without(colour int) set  { return s &^ (1 << colour) }
-func (s set) has(colour int) bool     { return s>>colour&1 == 1 }
-func (s set) contains(other set) bool { return s&other == other }
-
-// colours yields the colours of a set, increasing.
-func (s set) colours() iter.Seq[int] {
-	return func(yield func(int) bool) {
-		for colour := range api.MaxGallColours {
-			if s.has(colour) && !yield(colour) {
-				return
-			}
-		}
-	}
-}
-
 // befores is for each colour which ones come before it by a pair.
-type befores [api.MaxGallColours]set
+type befores [api.MaxGallColours]lists.Set
 
 // paired returns which colours come before each by some pairs.
 func paired(pairs [][2]int) befores {
 	var b befores
 	for _, pair := range pairs {
-		b[pair[1]] = b[pair[1]].with(pair[0])
+		b[pair[1]] = b[pair[1]].With(pair[0])
 	}
 	return b
 }
@@ -42,8 +23,8 @@ func paired(pairs [][2]int) befores {
 func (b befores) turned() befores {
 	var turned befores
 	for second, firsts := range b {
-		for first := range firsts.colours() {
-			turned[first] = turned[first].with(second)
+		for first := range firsts.Indexes() {
+			turned[first] = turned[first].With(second)
 		}
 	}
 	return turned
@@ -55,9 +36,9 @@ func (b befores) turned() befores {
 func (b befores) leadBack() bool {
 	for range b {
 		for second, firsts := range b {
-			for first := range firsts.colours() {
+			for first := range firsts.Indexes() {
 				if b[first] == 0 {
-					b[second] = b[second].without(first)
+					b[second] = b[second].Without(first)
 				}
 			}
 		}
@@ -74,7 +55,7 @@ func (b befores) pushed(many int, own func(colour int) int64) []int64 {
 	for range many {
 		for colour := range many {
 			numbers := []int64{own(colour)}
-			for first := range b[colour].colours() {
+			for first := range b[colour].Indexes() {
 				numbers = append(numbers, out[first]+1)
 			}
 			out[colour] = slices.Max(numbers)
