@@ -7,6 +7,7 @@ import (
 
 	"oxgall/api"
 	"oxgall/gall"
+	"oxgall/lists"
 )
 
 // list returns a list: of each colour both ends of its Strength, its Least and its Most.
@@ -180,19 +181,9 @@ func keeps(l api.GallList, order []int) bool {
 
 // orders calls a function with all orders of n colours, in lexicographic order.
 func orders(n int, look func(order []int)) {
-	var grow func(order []int)
-	grow = func(order []int) {
-		if len(order) == n {
-			look(order)
-			return
-		}
-		for colour := range n {
-			if !slices.Contains(order, colour) {
-				grow(append(slices.Clone(order), colour))
-			}
-		}
+	for order := range lists.Orders(n, func([]int) bool { return true }) {
+		look(order)
 	}
-	grow(nil)
 }
 
 // checked returns what is wrong with an order.

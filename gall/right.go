@@ -24,18 +24,12 @@ func (l *list) canBegin(order []int) bool {
 
 // first returns the first right order of a list that has one.
 func (l *list) first() []int {
-	var order []int
-	for place := range l.Colours {
-		for colour := range l.Colours {
-			// All that are tried at a place begin with the same colours, so their capacity is cut.
-			tried := append(order[:place:place], colour)
-			if l.canBegin(tried) {
-				order = tried
-				break
-			}
-		}
+	first := make([]int, len(l.Colours))
+	for order := range lists.Orders(len(first), l.canBegin) {
+		copy(first, order)
+		break
 	}
-	return order
+	return first
 }
 
 // count returns how many right orders there are. How many orders the colours have

@@ -3,6 +3,8 @@ package seam
 import (
 	"iter"
 	"slices"
+
+	"oxgall/lists"
 )
 
 // cut is which parts are cut already, as bits, and the last one of them.
@@ -12,6 +14,15 @@ type cut struct {
 
 // with returns a cut with one more part.
 func (c cut) with(part int) cut { return cut{c.parts | 1<<part, part} }
+
+// cutOf returns the cut of some parts, one behind another.
+func cutOf(parts []int) cut {
+	var c cut
+	for _, part := range parts {
+		c = c.with(part)
+	}
+	return c
+}
 
 // has tells whether a part is cut already.
 func (c cut) has(part int) bool { return c.parts>>part&1 == 1 }
@@ -70,22 +81,13 @@ func (c *cutting) leads(from cut, next int) bool {
 
 // orders yields the best orders that begin with the part 0.
 func (c *cutting) orders() iter.Seq[[]int] {
-	return func(yield func([]int) bool) {
-		var grow func(order []int, at cut) bool
-		grow = func(order []int, at cut) bool {
-			if len(order) == len(c.Parts) {
-				return yield(order)
-			}
-			for next := range c.Parts {
-				// Several orders begin with the same parts, so their capacity is cut.
-				if c.leads(at, next) && !grow(append(order[:len(order):len(order)], next), at.with(next)) {
-					return false
-				}
-			}
-			return true
+	return lists.Orders(len(c.Parts), func(begin []int) bool {
+		if len(begin) == 1 {
+			return begin[0] == 0
 		}
-		grow([]int{0}, cut{}.with(0))
-	}
+		before, next := begin[:len(begin)-1], begin[len(begin)-1]
+		return c.leads(cutOf(before), next)
+	})
 }
 
 // best returns the first best order that begins with the part 0.

@@ -6,6 +6,7 @@ import (
 	"testing"
 
 	"oxgall/api"
+	"oxgall/lists"
 	"oxgall/seam"
 )
 
@@ -203,19 +204,9 @@ func listed(bits int) []int {
 
 // orders calls a function with all orders that begin with the part 0.
 func orders(s api.SeamSet, look func(order []int)) {
-	var grow func(order []int)
-	grow = func(order []int) {
-		if len(order) == len(s.Parts) {
-			look(order)
-			return
-		}
-		for part := range s.Parts {
-			if !slices.Contains(order, part) {
-				grow(append(slices.Clone(order), part))
-			}
-		}
+	for order := range lists.Orders(len(s.Parts), func(begin []int) bool { return begin[0] == 0 }) {
+		look(order)
 	}
-	grow([]int{0})
 }
 
 // allBest returns all best orders that begin with the part 0, and their rounds.
