@@ -1,6 +1,8 @@
 // Package lists tells what all layers ask of lists, sets and numbers.
 package lists
 
+import "cmp"
+
 // First returns the index of the first element that is good, or the length of the list if none is.
 func First[T any](list []T, good func(T) bool) int {
 	for i, x := range list {
@@ -32,8 +34,8 @@ func Within(low, high int64, numbers ...int64) bool {
 	return Every(numbers, func(n int64) bool { return low <= n && n <= high })
 }
 
-// Rising tells whether each number is greater than the one before it.
-func Rising(list []int) bool {
+// Rising tells whether each element is greater than the one before it.
+func Rising[T cmp.Ordered](list []T) bool {
 	for i := 1; i < len(list); i++ {
 		if list[i] <= list[i-1] {
 			return false

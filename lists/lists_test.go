@@ -49,7 +49,11 @@ func TestTwiceAndRising(t *testing.T) {
 		if twice := lists.Twice(x.list); twice != x.twice {
 			t.Error(i, twice)
 		}
-		if rising := lists.Rising(x.list); rising != x.rising {
+		var minutes []int64
+		for _, n := range x.list {
+			minutes = append(minutes, int64(n))
+		}
+		if rising := lists.Rising(x.list); rising != x.rising || lists.Rising(minutes) != rising {
 			t.Error(i, rising)
 		}
 	}
