@@ -2,7 +2,6 @@ package expert
 
 import (
 	"iter"
-	"math"
 	"slices"
 
 	"oxgall/api"
@@ -64,14 +63,5 @@ func claimsTrue(truth []int) int {
 	return sum
 }
 
-// least returns the first one of several whose number is least, and this number.
-func least[T any](several iter.Seq[T], numberOf func(T) int) (T, int) {
-	var first T
-	fewest := math.MaxInt
-	for x := range several {
-		if n := numberOf(x); n < fewest {
-			first, fewest = x, n
-		}
-	}
-	return first, fewest
-}
+// fewerTrue tells whether fewer claims are true in a truth than in another one.
+func fewerTrue(one, two []int) bool { return claimsTrue(one) < claimsTrue(two) }

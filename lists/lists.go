@@ -1,7 +1,10 @@
 // Package lists tells what all layers ask of lists, sets and numbers.
 package lists
 
-import "cmp"
+import (
+	"cmp"
+	"iter"
+)
 
 // First returns the index of the first element that is good, or the length of the list if none is.
 func First[T any](list []T, good func(T) bool) int {
@@ -11,6 +14,19 @@ func First[T any](list []T, good func(T) bool) int {
 		}
 	}
 	return len(list)
+}
+
+// Least returns the first one of several that no other one comes before, and
+// whether there is any.
+func Least[T any](several iter.Seq[T], before func(one, two T) bool) (T, bool) {
+	var best T
+	some := false
+	for x := range several {
+		if !some || before(x, best) {
+			best, some = x, true
+		}
+	}
+	return best, some
 }
 
 // Every tells whether all elements are good.

@@ -32,6 +32,26 @@ func TestFirstAndEvery(t *testing.T) {
 	}
 }
 
+func TestLeast(t *testing.T) {
+	for i, x := range []struct {
+		list  []string
+		least string
+		some  bool
+	}{
+		{nil, "", false},
+		{[]string{""}, "", true},
+		{[]string{"red"}, "red", true},
+		{[]string{"red", "blue", "grey"}, "red", true},
+		{[]string{"green", "blue", "grey", "black"}, "blue", true},
+		{[]string{"green", "brown", "white"}, "green", true},
+	} {
+		shorter := func(one, two string) bool { return len(one) < len(two) }
+		if least, some := lists.Least(slices.Values(x.list), shorter); least != x.least || some != x.some {
+			t.Error(i, least, some)
+		}
+	}
+}
+
 func TestTwiceAndRising(t *testing.T) {
 	for i, x := range []struct {
 		list          []int

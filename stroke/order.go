@@ -1,22 +1,10 @@
 package stroke
 
 import (
-	"iter"
 	"slices"
-)
 
-// least returns the first one of several that no other one comes before, and
-// whether there is any.
-func least[T any](several iter.Seq[T], before func(one, two T) bool) (T, bool) {
-	var best T
-	some := false
-	for x := range several {
-		if !some || before(x, best) {
-			best, some = x, true
-		}
-	}
-	return best, some
-}
+	"oxgall/lists"
+)
 
 // spine returns a longest spine of a short form.
 func spine(short []int, exchange func(one, two int) bool) []int {
@@ -30,11 +18,11 @@ func spine(short []int, exchange func(one, two int) bool) []int {
 				}
 			}
 		}
-		end, _ := least(continued, longer)
+		end, _ := lists.Least(continued, longer)
 		// Several spines can continue the same one, so its capacity is cut.
 		ends = append(ends, append(end[:len(end):len(end)], i))
 	}
-	longest, _ := least(slices.Values(ends), longer)
+	longest, _ := lists.Least(slices.Values(ends), longer)
 	return longest
 }
 

@@ -5,6 +5,7 @@ import (
 	"slices"
 
 	"oxgall/api"
+	"oxgall/lists"
 )
 
 // bench is a valid bench with which of its lines meet: those that cross, and
@@ -181,7 +182,7 @@ func (p *pile) shared(q *pile) iter.Seq[int] {
 func (p *pile) short() []int {
 	var out []int
 	for {
-		stroke, some := least(p.firsts(), before)
+		stroke, some := lists.Least(p.firsts(), before)
 		if !some {
 			return out
 		}
@@ -194,7 +195,7 @@ func (p *pile) short() []int {
 func (p *pile) common(q *pile) []int {
 	var out []int
 	for {
-		stroke, some := least(p.shared(q), before)
+		stroke, some := lists.Least(p.shared(q), before)
 		if !some {
 			return out
 		}
