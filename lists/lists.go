@@ -46,8 +46,8 @@ func Twice[T comparable](list []T) bool {
 }
 
 // Within tells whether all numbers are from low to high.
-func Within(low, high int64, numbers ...int64) bool {
-	return Every(numbers, func(n int64) bool { return low <= n && n <= high })
+func Within[T cmp.Ordered](low, high T, numbers ...T) bool {
+	return Every(numbers, func(n T) bool { return low <= n && n <= high })
 }
 
 // Rising tells whether each element is greater than the one before it.

@@ -92,7 +92,12 @@ func TestWithin(t *testing.T) {
 		{3, 1, []int64{2}, false},
 		{math.MinInt64, math.MaxInt64, []int64{math.MinInt64, math.MaxInt64}, true},
 	} {
-		if within := lists.Within(x.low, x.high, x.numbers...); within != x.within {
+		var cells []int
+		for _, n := range x.numbers {
+			cells = append(cells, int(n))
+		}
+		within := lists.Within(x.low, x.high, x.numbers...)
+		if within != x.within || lists.Within(int(x.low), int(x.high), cells...) != within {
 			t.Error(i, within)
 		}
 	}
